@@ -296,3 +296,49 @@ func TestQuestionsAreNewMemory(t *testing.T) {
 		ownMemory(t, "QueryGet", func() queryAnswer { got, ok := impl.QueryGet(text); return queryAnswer{got, ok} }, text)
 	}
 }
+
+func TestRanksAreNewMemory(t *testing.T) {
+	notOk := copyIndex(mixedIndex(t))
+	notOk.Next = 0
+	long := indexWith(t, sampleFields(), docOf(t, "second; price=5; title=red pie"), docOf(t, "first; body=red red"), docOf(t, "third; price=5; title=red"), docOf(t, "zeroth; price=0"))
+	for _, x := range []impl.Index{sharing(t), roomy(sharing(t)), roomy(long), roomy(notOk), roomy(indexWith(t, sampleFields(), sampleDocs(t)...)), roomy(indexWith(t, sampleFields()))} {
+		for _, q := range sharingQueries() {
+			given := []any{x, q}
+			if !impl.QueryOk(q) {
+				// What is within itself has no end to be looked at.
+				given = given[:1]
+			}
+			ownMemory(t, "Score", func() int { return impl.Score(x, q, 1) }, given...)
+			ownMemory(t, "Rank", func() []impl.Hit { return impl.Rank(x, q) }, given...)
+			for _, field := range []string{"price", "title"} {
+				ownMemory(t, "RankBy", func() []impl.Hit { return impl.RankBy(x, q, field, false) }, given...)
+				ownMemory(t, "RankBy down", func() []impl.Hit { return impl.RankBy(x, q, field, true) }, given...)
+			}
+		}
+	}
+	list := roomy([]impl.Hit{{Id: 3, Key: "third", Score: 7}, {Id: 1, Key: "first", Score: -7}, {Id: 1, Key: "first"}, {Id: 2, Key: ""}})
+	for _, given := range [][]impl.Hit{list, list[:2], list[1:3], list[:0], nil} {
+		for skip := -1; skip < 6; skip++ {
+			for many := -1; many < 6; many++ {
+				ownMemory(t, "Page", func() []impl.Hit { return impl.Page(given, skip, many) }, given, list)
+			}
+		}
+	}
+}
+
+func TestGroupsAreNewMemory(t *testing.T) {
+	notOk := copyIndex(mixedIndex(t))
+	notOk.Next = 0
+	tagged := indexWith(t, sampleFields(), groupedDocs(t)...)
+	for _, x := range []impl.Index{roomy(tagged), roomy(sharing(t)), roomy(notOk), roomy(indexWith(t, sampleFields()))} {
+		for _, ids := range [][]int{{3, 1, 0, 1, 77, -1}, {0, 1, 2, 3, 4, 5, 6, 7}, {4}, {}} {
+			ids = roomy(ids)
+			for _, field := range []string{"color", "price", "zz"} {
+				ownMemory(t, "Groups", func() []impl.Group { return impl.Groups(x, ids, field) }, x, ids)
+				ownMemory(t, "StatOf", func() impl.Stat { return impl.StatOf(x, ids, field) }, x, ids)
+				ownMemory(t, "Bins", func() []impl.Bin { return impl.Bins(x, ids, field, 5) }, x, ids)
+				ownMemory(t, "Bins of no width", func() []impl.Bin { return impl.Bins(x, ids, field, 0) }, x, ids)
+			}
+		}
+	}
+}
