@@ -312,9 +312,11 @@ func (c tagContent) names() []string {
 
 // textOk says whether a text may stand in a cell.
 func textOk(s string) bool {
-	if len(s) > TextMax {
-		return false
-	}
+	return len(s) <= TextMax && isPlain(s)
+}
+
+// isPlain says whether a text has no bytes but those that can be seen, and blanks.
+func isPlain(s string) bool {
 	for i := range len(s) {
 		if s[i] < 32 || s[i] > 126 {
 			return false
